@@ -12,14 +12,8 @@ import (
 	"langdoc/tiers"
 )
 
-// timed returns a note with a span, and plain one without.
-func timed(id, tier, parent, from, to int, text string) api.Note {
-	return api.Note{Id: id, Tier: tier, Parent: parent, Span: api.Span{From: from, To: to}, Text: text}
-}
-
-func plain(id, tier, parent, rank int, text string) api.Note {
-	return api.Note{Id: id, Tier: tier, Parent: parent, Rank: rank, Text: text}
-}
+// timed makes notes with a span, plain those without.
+var timed, plain = sample.Timed, sample.Plain
 
 // full returns a right document: the second text stands before the first one, and parents stand behind their children.
 func full() api.Doc {

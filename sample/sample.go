@@ -1,4 +1,4 @@
-// Package sample makes documents for the tests of the layers.
+// Package sample makes notes and documents for the tests of the layers.
 package sample
 
 import (
@@ -46,6 +46,15 @@ func Tiers() []api.Tier {
 // Of returns a document of 12 milliseconds with these tiers and notes.
 func Of(notes ...api.Note) api.Doc {
 	return api.Doc{Rec: api.Recording{Id: 3, Name: "tape", Length: length, Day: 5, Speakers: []int{1, 4}}, Tiers: Tiers(), Notes: notes}
+}
+
+// Timed returns a note with a span, and Plain one without.
+func Timed(id, tier, parent, from, to int, text string) api.Note {
+	return api.Note{Id: id, Tier: tier, Parent: parent, Span: api.Span{From: from, To: to}, Text: text}
+}
+
+func Plain(id, tier, parent, rank int, text string) api.Note {
+	return api.Note{Id: id, Tier: tier, Parent: parent, Rank: rank, Text: text}
 }
 
 // Doc returns a right document, which can be printed, and whose notes have Ids from 1 to 2000 in no order. All its choices are made by pick, which returns a number from 0 to n - 1.
