@@ -10,6 +10,7 @@ import (
 	"langdoc/entry"
 	"langdoc/lexicon"
 	"langdoc/phoneme"
+	"langdoc/sample"
 )
 
 // inventory returns one of five segments.
@@ -325,17 +326,7 @@ func TestMemory(t *testing.T) {
 		func() []api.Entry { x, _ := lexicon.Get(b, 2); return []api.Entry{x} },
 	} {
 		l := call()
-		for _, x := range l {
-			clear(x.Form)
-			for _, w := range x.Alts {
-				clear(w)
-			}
-			clear(x.Alts)
-			clear(x.Senses)
-			clear(x.Links)
-			clear(x.Refs)
-		}
-		clear(l)
+		sample.Wipe(l)
 		e.Id = 2
 		if len(l) == 0 || !lexicon.Same(b, book()) || !entry.Same(e, book()[0]) {
 			t.Fatal("call", i, b, e)

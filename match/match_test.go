@@ -64,13 +64,8 @@ func TestThenWithinAndHas(t *testing.T) {
 	}
 }
 
-func text(role int, p string) api.Query { return api.Query{Op: api.OpText, Role: role, Text: p} }
-
-func not(role int, q api.Query) api.Query {
-	return api.Query{Op: api.OpNot, Role: role, Kids: []api.Query{q}}
-}
-
-func two(op int, a, b api.Query) api.Query { return api.Query{Op: op, Kids: []api.Query{a, b}} }
+// text, not and two make queries.
+var text, not, two = sample.Find, sample.Not, sample.Two
 
 // P36.2, P36.3
 func TestEvalAndHolds(t *testing.T) {
@@ -181,25 +176,6 @@ func finds(d api.Doc, q api.Query, n api.Note) bool {
 	return some(below)
 }
 
-// made returns a query of a few levels, which mostly finds notes of one role.
-func made(random *rand.Rand, levels, role int) api.Query {
-	other := 1 + random.Intn(5)
-	if levels == 1 {
-		return text(role, []string{"*", "*", "ba", "b*", "*i", "??", "\u00e9%"}[random.Intn(7)])
-	}
-	switch op := random.Intn(7); op {
-	case api.OpText:
-		return made(random, 1, role)
-	case api.OpNot:
-		return not(role, made(random, levels-1, other))
-	case api.OpAnd, api.OpThen:
-		other = role
-		fallthrough
-	default:
-		return two(op, made(random, levels-1, role), made(random, levels-1, other))
-	}
-}
-
 // P36.2, P36.3: of many documents and queries.
 func TestManyQueries(t *testing.T) {
 	random := rand.New(rand.NewSource(36))
@@ -207,7 +183,7 @@ func TestManyQueries(t *testing.T) {
 	for range 1000 {
 		d := sample.Doc(random.Intn)
 		for range 8 {
-			q := made(random, 1+random.Intn(4), 1+random.Intn(5))
+			q := sample.Query(random.Intn, 1+random.Intn(4), 1+random.Intn(5))
 			var want []int
 			for _, n := range d.Notes {
 				if finds(d, q, n) {
@@ -288,7 +264,7 @@ func TestLaws(t *testing.T) {
 	for range 400 {
 		d := sample.Doc(random.Intn)
 		role := 1 + random.Intn(5)
-		a, b, c := made(random, 3, role), made(random, 2, 1+random.Intn(5)), made(random, 2, role)
+		a, b, c := sample.Query(random.Intn, 3, role), sample.Query(random.Intn, 2, 1+random.Intn(5)), sample.Query(random.Intn, 2, role)
 		eval := func(q api.Query) []int { return match.Eval(d, q) }
 		inRole := eval(two(api.OpAnd, a, text(role, "*")))
 		for i, p := range [][2][]int{

@@ -11,35 +11,11 @@ import (
 	"langdoc/clock"
 	"langdoc/ops"
 	"langdoc/replica"
+	"langdoc/sample"
 )
 
-func stamp(count, dev int) api.Stamp { return api.Stamp{Count: count, Dev: dev} }
-
-// seen returns a vector with these numbers at its beginning.
-func seen(l ...int) []int { return append(l, make([]int, api.MaxDevs-len(l))...) }
-
-// The operations of the tests: of the device 1 unless it is said.
-func add(at api.Stamp, rec int, n api.Note) api.Op {
-	n.Id = clock.Id(at)
-	return api.Op{At: at, Kind: api.DoAdd, Rec: rec, Note: n}
-}
-
-func set(at api.Stamp, rec, note, field, n int, text string, over ...api.Stamp) api.Op {
-	return api.Op{At: at, Kind: api.DoSet, Rec: rec, Note: api.Note{Id: note}, Set: field, N: n, Text: text, Over: over}
-}
-
-func drop(at api.Stamp, rec, note int, over ...api.Stamp) api.Op {
-	return api.Op{At: at, Kind: api.DoDrop, Rec: rec, Note: api.Note{Id: note}, Over: over}
-}
-
-// of returns the replica of a device with these operations.
-func of(dev int, l ...api.Op) api.Replica {
-	r := api.Replica{Dev: dev, Seen: seen(), Ops: l}
-	for _, o := range l {
-		r.Seen = clock.See(r.Seen, o.At)
-	}
-	return r
-}
+// The operations of the tests, and the replica of a device with some.
+var stamp, add, set, drop, of = sample.Stamp, sample.Add, sample.Set, sample.Drop, sample.Replica
 
 // The notes of known.
 const (

@@ -1,4 +1,4 @@
-// Package sample makes notes and documents for the tests of the layers.
+// Package sample makes notes, documents, queries and replicas for the tests of the layers.
 package sample
 
 import (

@@ -5,6 +5,8 @@ import (
 	"testing"
 
 	"langdoc/api"
+	"langdoc/query"
+	"langdoc/replica"
 	"langdoc/sample"
 	"langdoc/tiers"
 	"langdoc/tiertext"
@@ -47,6 +49,56 @@ func TestMost(t *testing.T) {
 		})
 		if err := tiers.Check(d); err != api.OK {
 			t.Errorf("%d notes: %d", len(d.Notes), err)
+		}
+	}
+}
+
+// All queries are right, and there are some with each operator.
+func TestQuery(t *testing.T) {
+	random := rand.New(rand.NewSource(2))
+	count := map[int]int{}
+	for range 1000 {
+		q := sample.Query(random.Intn, 1+random.Intn(4), 1+random.Intn(5))
+		if err := query.Check(q); err != api.OK {
+			t.Fatal(q, err)
+		}
+		count[q.Op]++
+	}
+	for op := api.OpText; op <= api.OpHas; op++ {
+		if count[op] < 50 {
+			t.Errorf("only %d queries with the operator %d", count[op], op)
+		}
+	}
+}
+
+// All replicas are right, with at most one more operation, and there are operations of each kind and on each tier.
+func TestChange(t *testing.T) {
+	random := rand.New(rand.NewSource(3))
+	kinds, tiers := make([]int, 3), make([]int, len(sample.Tiers()))
+	for range 40 {
+		r := sample.Replica(2)
+		for range 60 {
+			next := sample.Change(random.Intn, r)
+			if replica.Check(next) != api.OK || len(next.Ops) > len(r.Ops)+1 || len(next.Ops) == len(r.Ops) && !replica.Same(next, r) {
+				t.Fatalf("%v after %v", next, r)
+			}
+			r = next
+		}
+		for _, o := range r.Ops {
+			kinds[o.Kind]++
+			if o.Kind == api.DoAdd && o.Note.Parent > 0 {
+				tiers[o.Note.Tier]++
+			}
+		}
+	}
+	for kind, n := range kinds {
+		if n < 100 {
+			t.Errorf("only %d operations of the kind %d", n, kind)
+		}
+	}
+	for tier, n := range tiers {
+		if root := sample.Tiers()[tier].Kind == api.TierRoot; root != (n == 0) || !root && n < 50 {
+			t.Errorf("%d notes with a parent in the tier %d", n, tier)
 		}
 	}
 }
